@@ -1,0 +1,92 @@
+// Package ratchet lets two parties talk under keys that go on: see DOC.md.
+package ratchet
+
+import (
+	"errors"
+
+	"ratchet/sums"
+)
+
+// What a call refuses with.
+var (
+	ErrLong = errors.New("ratchet: above a bound")
+	ErrKey  = errors.New("ratchet: a key that is none")
+	ErrForm = errors.New("ratchet: no frame")
+	ErrAuth = errors.New("ratchet: not from the other one, or not for the first time")
+	ErrSkip = errors.New("ratchet: too much is skipped")
+	ErrNone = errors.New("ratchet: there is no chain yet")
+	ErrFull = errors.New("ratchet: the chain is at its end")
+)
+
+const (
+	maxData = 200
+	maxMade = 128
+)
+
+// Party is one of the two. Make it by First, Second or Copy.
+type Party struct{}
+
+// Hash is SHA-256 (P3).
+func Hash(data string) (string, error) {
+	if anyLong(data) {
+		return "", ErrLong
+	}
+	return sums.Hash(data), nil
+}
+
+// Mac is HMAC-SHA-256 (P3).
+func Mac(key string, data string) (string, error) {
+	if anyLong(key, data) {
+		return "", ErrLong
+	}
+	return sums.Mac(key, data), nil
+}
+
+// Derive is HKDF-SHA-256 (P4).
+func Derive(salt string, key string, info string, n int) (string, error) {
+	if anyLong(salt, key, info) || n < 0 || n > maxMade {
+		return "", ErrLong
+	}
+	return sums.Derive(salt, key, info, n), nil
+}
+
+func anyLong(all ...string) bool {
+	for _, s := range all {
+		if len(s) > maxData {
+			return true
+		}
+	}
+	return false
+}
+
+// Shared is X25519 (P5). It is not built yet.
+func Shared(secret string, public string) (string, error) { return "", nil }
+
+// Public is the public key of a secret (P5). It is not built yet.
+func Public(secret string) (string, error) { return "", nil }
+
+// Seal seals a text (P6). It is not built yet.
+func Seal(key string, ad string, text string) (string, error) { return "", nil }
+
+// Open opens what was sealed (P6). It is not built yet.
+func Open(key string, ad string, sealed string) (string, error) { return "", nil }
+
+// First makes the party that begins (P7). It is not built yet.
+func First(root string, theirs string, draw string) (*Party, error) { return nil, nil }
+
+// Second makes the other one (P7). It is not built yet.
+func Second(root string, own string) (*Party, error) { return nil, nil }
+
+// Copy makes a party that goes on alike (P14). It is not built yet.
+func (p *Party) Copy() *Party { return nil }
+
+// Send answers a frame (P8). It is not built yet.
+func (p *Party) Send(ad string, text string) (string, error) { return "", nil }
+
+// Receive answers the text of a frame (P9 to P12). It is not built yet.
+func (p *Party) Receive(ad string, frame string, draw string) (string, error) { return "", nil }
+
+// Batch receives many frames (P13). It is not built yet.
+func (p *Party) Batch(ad string, frames []string, draws []string) ([]string, []error) {
+	return nil, nil
+}
