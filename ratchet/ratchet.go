@@ -59,18 +59,6 @@ func anyLong(all ...string) bool {
 	return false
 }
 
-// Shared is X25519 (P5). It is not built yet.
-func Shared(secret string, public string) (string, error) { return "", nil }
-
-// Public is the public key of a secret (P5). It is not built yet.
-func Public(secret string) (string, error) { return "", nil }
-
-// Seal seals a text (P6). It is not built yet.
-func Seal(key string, ad string, text string) (string, error) { return "", nil }
-
-// Open opens what was sealed (P6). It is not built yet.
-func Open(key string, ad string, sealed string) (string, error) { return "", nil }
-
 // First makes the party that begins (P7). It is not built yet.
 func First(root string, theirs string, draw string) (*Party, error) { return nil, nil }
 

@@ -126,14 +126,42 @@ func TestP1Keys(t *testing.T) {
 	for _, a := range oddStrings() {
 		got, err := Public(a)
 		checkP1(t, "Public", got, err)
+		checkMade(t, "Public", got, err, 32)
 		for _, b := range []string{"", a, pattern(32), pattern(64)} {
 			got, err = Shared(a, b)
 			checkP1(t, "Shared", got, err)
-			got, err = Seal(a, b, a)
-			checkP1(t, "Seal", got, err)
-			got, err = Open(b, a, a)
-			checkP1(t, "Open", got, err)
+			checkMade(t, "Shared", got, err, 32)
+			got, err = Shared(b, a)
+			checkP1(t, "Shared", got, err)
+			checkMade(t, "Shared", got, err, 32)
 		}
+	}
+}
+
+func TestP1Seals(t *testing.T) {
+	for _, a := range oddStrings() {
+		for _, b := range []string{"", a, pattern(32), pattern(64)} {
+			for _, key := range []string{"", a, b, pattern(32), pattern(33)} {
+				got, err := Seal(key, b, a)
+				checkP1(t, "Seal", got, err)
+				checkMade(t, "Seal", got, err, len(a)+16)
+				got, err = Seal(key, a, b)
+				checkP1(t, "Seal", got, err)
+				checkMade(t, "Seal", got, err, len(b)+16)
+				got, err = Open(key, b, a)
+				checkP1(t, "Open", got, err)
+				got, err = Open(key, a, b)
+				checkP1(t, "Open", got, err)
+			}
+		}
+	}
+}
+
+// checkMade: what is answered has the length that it owes.
+func checkMade(t *testing.T, call string, got string, err error, want int) {
+	t.Helper()
+	if err == nil && len(got) != want {
+		t.Errorf("P1: %s made %d bytes, want %d", call, len(got), want)
 	}
 }
 
@@ -189,7 +217,25 @@ func sumAnswers() []answer {
 		keep(Derive("salt", s, "info", 128))
 		keep(Derive("salt", "key", s, 129))
 	}
+	keepKeyAnswers(keep)
 	return all
+}
+
+// keepKeyAnswers hands over what the calls that take keys answer.
+func keepKeyAnswers(keep func(string, error)) {
+	key := hashOf("key")
+	for _, s := range []string{"", pattern(31), pattern(32), pattern(64), pattern(68), pattern(81)} {
+		keep(Public(s))
+		keep(Shared(s, key))
+		keep(Shared(key, s))
+		keep(Seal(key, s, "text"))
+		keep(Seal(key, "ad", s))
+		keep(Seal(s, "ad", "text"))
+		sealed, _ := Seal(key, s, "text")
+		keep(Open(key, s, sealed))
+		keep(Open(key, s+"x", sealed))
+		keep(Open(key, "ad", s))
+	}
 }
 
 func TestP2SameAnswerBehindOthers(t *testing.T) {
@@ -198,6 +244,11 @@ func TestP2SameAnswerBehindOthers(t *testing.T) {
 		Hash(pattern(i))
 		Mac(pattern(4*i), pattern(5*i))
 		Derive(pattern(i), pattern(5*i), pattern(i), 3*i)
+		Public(pattern(i))
+		Shared(hashOf(pattern(i)), hashOf(pattern(2*i)))
+		sealed, _ := Seal(hashOf(pattern(i)), pattern(2*i), pattern(i))
+		Open(hashOf(pattern(i)), pattern(2*i), sealed)
+		Open(hashOf("key"), pattern(2*i), sealed)
 	}
 	for i, a := range sumAnswers() {
 		if a != before[i] {
