@@ -23,9 +23,6 @@ const (
 	maxMade = 128
 )
 
-// Party is one of the two. Make it by First, Second or Copy.
-type Party struct{}
-
 // Hash is SHA-256 (P3).
 func Hash(data string) (string, error) {
 	if anyLong(data) {
@@ -58,21 +55,6 @@ func anyLong(all ...string) bool {
 	}
 	return false
 }
-
-// First makes the party that begins (P7). It is not built yet.
-func First(root string, theirs string, draw string) (*Party, error) { return nil, nil }
-
-// Second makes the other one (P7). It is not built yet.
-func Second(root string, own string) (*Party, error) { return nil, nil }
-
-// Copy makes a party that goes on alike (P14). It is not built yet.
-func (p *Party) Copy() *Party { return nil }
-
-// Send answers a frame (P8). It is not built yet.
-func (p *Party) Send(ad string, text string) (string, error) { return "", nil }
-
-// Receive answers the text of a frame (P9 to P12). It is not built yet.
-func (p *Party) Receive(ad string, frame string, draw string) (string, error) { return "", nil }
 
 // Batch receives many frames (P13). It is not built yet.
 func (p *Party) Batch(ad string, frames []string, draws []string) ([]string, []error) {

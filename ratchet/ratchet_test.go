@@ -3,6 +3,7 @@ package ratchet
 import (
 	"errors"
 	"math"
+	"reflect"
 	"strings"
 	"testing"
 )
@@ -166,29 +167,33 @@ func checkMade(t *testing.T, call string, got string, err error, want int) {
 }
 
 func TestP1Parties(t *testing.T) {
-	for _, a := range append(oddStrings(), pattern(32)) {
-		first, err := First(a, a, pattern(32))
-		if err != nil && (first != nil || !isOne(err)) {
+	a, b := pair(t)
+	c, _, frames := behind(t)
+	for _, s := range append(oddStrings(), frames...) {
+		first, err := First(s, s, pattern(32))
+		if (err != nil) != (first == nil) || err != nil && !isOne(err) {
 			t.Errorf("P1: First = %v, %v", first, err)
 		}
-		second, err := Second(a, a)
-		if err != nil && (second != nil || !isOne(err)) {
+		second, err := Second(s, pattern(32))
+		if (err != nil) != (second == nil) || err != nil && !isOne(err) {
 			t.Errorf("P1: Second = %v, %v", second, err)
 		}
-		if err == nil {
-			useParty(t, first, a)
-			useParty(t, second, a)
+		for _, p := range []*Party{first, second, a.Copy(), b.Copy(), c.Copy()} {
+			useParty(t, p, s)
 		}
 	}
 }
 
+// useParty hands a string to each call in each place.
 func useParty(t *testing.T, p *Party, s string) {
 	t.Helper()
-	p.Copy()
-	got, err := p.Send(s, s)
-	checkP1(t, "Send", got, err)
-	got, err = p.Receive(s, s, s)
-	checkP1(t, "Receive", got, err)
+	for _, c := range [][2]string{{s, ""}, {"", s}, {s, s}} {
+		checkMoves(t, p, func() (string, error) { return p.Send(c[0], c[1]) })
+	}
+	key, frame := pattern(32), pattern(52)
+	for _, c := range [][3]string{{s, frame, key}, {"", s, key}, {"", frame, s}, {s, s, key}, {s, frame, s}, {"", s, s}, {s, s, s}} {
+		checkMoves(t, p, func() (string, error) { return p.Receive(c[0], c[1], c[2]) })
+	}
 	for n := range 10 {
 		frames, draws := make([]string, n), make([]string, n)
 		p.Batch(s, frames, draws)
@@ -197,6 +202,22 @@ func useParty(t *testing.T, p *Party, s string) {
 		if strings.Join(frames, "")+strings.Join(draws, "") != "" {
 			t.Error("P1: Batch changed a list that it was handed")
 		}
+	}
+}
+
+// checkMoves: with an error the party is as it was, with none it is not.
+func checkMoves(t *testing.T, p *Party, call func() (string, error)) {
+	t.Helper()
+	if p == nil {
+		got, err := call()
+		checkP1(t, "a call of no party", got, err)
+		return
+	}
+	before := state(p)
+	got, err := call()
+	checkP1(t, "a party's call", got, err)
+	if (err != nil) != reflect.DeepEqual(before, state(p)) {
+		t.Errorf("P1: with the error %v the party moved, or without one it did not", err)
 	}
 }
 
@@ -218,6 +239,7 @@ func sumAnswers() []answer {
 		keep(Derive("salt", "key", s, 129))
 	}
 	keepKeyAnswers(keep)
+	keepPartyAnswers(keep, func(*Party) {})
 	return all
 }
 
@@ -236,6 +258,67 @@ func keepKeyAnswers(keep func(string, error)) {
 		keep(Open(key, s+"x", sealed))
 		keep(Open(key, "ad", s))
 	}
+}
+
+// keepPartyAnswers hands over what two parties answer, and lets something
+// happen behind each call.
+func keepPartyAnswers(keep func(string, error), between func(*Party)) {
+	public, _ := Public(hashOf("4"))
+	a, _ := First(hashOf("3"), public, hashOf("5"))
+	b, _ := Second(hashOf("3"), hashOf("4"))
+	var frames []string
+	send := func(p *Party, ad string, text string) {
+		frame, err := p.Send(ad, text)
+		frames = append(frames, frame)
+		keep(frame, err)
+		between(p)
+	}
+	receive := func(p *Party, ad string, at int) {
+		keep(p.Receive(ad, frames[at], hashOf(ad)))
+		between(p)
+	}
+	for turn := range 4 {
+		frames = nil
+		send(b, "", "early")
+		send(a, "", "1")
+		send(a, "ad", "2")
+		send(a, "ad", pattern(textBound+turn))
+		receive(b, "ad", 2)
+		receive(b, "ad", 2)
+		b = b.Copy()
+		receive(b, "", 1)
+		receive(a, "", 1)
+		a, b = b, a
+	}
+}
+
+func TestP2SameAnswerBetweenOthers(t *testing.T) {
+	var before []answer
+	keepPartyAnswers(func(text string, err error) { before = append(before, answer{text, err}) }, func(*Party) {})
+	c, d := pair(t)
+	at := 0
+	keep := func(text string, err error) {
+		if before[at] != (answer{text, err}) {
+			t.Errorf("P2: the answer number %d was %x, %v, and is %x, %v", at, before[at].text, before[at].err, text, err)
+		}
+		at++
+	}
+	keepPartyAnswers(keep, func(p *Party) {
+		other := p.Copy()
+		other.Send("", "other")
+		other.Receive("", frameOf(c), hashOf("d"))
+		d.Receive("", frameOf(c), hashOf("d"))
+		c.Receive("", frameOf(d), hashOf("c"))
+		c.Receive("", frameOf(other), hashOf("c"))
+	})
+	if at != len(before) {
+		t.Errorf("P2: %d answers, want %d", at, len(before))
+	}
+}
+
+func frameOf(p *Party) string {
+	frame, _ := p.Send("", "some text")
+	return frame
 }
 
 func TestP2SameAnswerBehindOthers(t *testing.T) {

@@ -20,9 +20,14 @@ func Seal(key string, ad string, text string) (string, error) {
 	if !areKeys(key) {
 		return "", ErrKey
 	}
+	return sealText(key, ad, text), nil
+}
+
+// sealText is Seal of what is within its limits.
+func sealText(key string, ad string, text string) string {
 	hiding, proving := sealKeys(key)
 	box := hidden(hiding, text)
-	return box + tag(proving, ad, box), nil
+	return box + tag(proving, ad, box)
 }
 
 // Open answers the text that was sealed with the key, beside ad (P6).
