@@ -55,8 +55,3 @@ func anyLong(all ...string) bool {
 	}
 	return false
 }
-
-// Batch receives many frames (P13). It is not built yet.
-func (p *Party) Batch(ad string, frames []string, draws []string) ([]string, []error) {
-	return nil, nil
-}

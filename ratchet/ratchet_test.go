@@ -4,6 +4,7 @@ import (
 	"errors"
 	"math"
 	"reflect"
+	"slices"
 	"strings"
 	"testing"
 )
@@ -194,13 +195,26 @@ func useParty(t *testing.T, p *Party, s string) {
 	for _, c := range [][3]string{{s, frame, key}, {"", s, key}, {"", frame, s}, {s, s, key}, {s, frame, s}, {"", s, s}, {s, s, s}} {
 		checkMoves(t, p, func() (string, error) { return p.Receive(c[0], c[1], c[2]) })
 	}
-	for n := range 10 {
-		frames, draws := make([]string, n), make([]string, n)
-		p.Batch(s, frames, draws)
-		p.Batch(s, frames, nil)
-		p.Batch(s, nil, draws)
-		if strings.Join(frames, "")+strings.Join(draws, "") != "" {
-			t.Error("P1: Batch changed a list that it was handed")
+	useBatch(t, p, s)
+}
+
+// useBatch hands a string to Batch in each place, in lists of many lengths.
+func useBatch(t *testing.T, p *Party, s string) {
+	t.Helper()
+	frames := slices.Repeat([]string{s, pattern(52), s, pattern(52)}, 3)
+	draws := slices.Repeat([]string{pattern(32), s, s, pattern(32)}, 3)
+	for _, ad := range []string{"", s} {
+		for _, n := range []int{1, 2, 4, 7, 8} {
+			if p == nil {
+				batched(t, p, ad, frames[:n], draws[:n])
+			} else {
+				checkAlike(t, p, ad, frames[:n], draws[:n])
+			}
+		}
+		for n := range frames {
+			p.Batch(ad, frames[:n], nil)
+			p.Batch(ad, frames[:n], draws)
+			p.Batch(ad, nil, draws[:n])
 		}
 	}
 }

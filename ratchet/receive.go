@@ -12,19 +12,21 @@ type plan struct {
 
 // Receive answers the text of a frame (P9 to P12).
 func (p *Party) Receive(ad string, frame string, draw string) (string, error) {
-	if err := misfit(ad, frame, draw); err != nil {
-		return "", err
-	}
-	next, err := p.planned(readHead(frame), draw)
+	next, err := p.planned(ad, frame, draw)
 	if err != nil {
 		return "", err
 	}
-	text, err := Open(next.key, ad+frame[:headSize], frame[headSize:])
+	text, err := next.open(ad, frame)
 	if err != nil {
 		return "", err
 	}
 	*p = *next.after
 	return text, nil
+}
+
+// open answers the text of the frame that the plan was made for.
+func (n plan) open(ad string, frame string) (string, error) {
+	return Open(n.key, ad+frame[:headSize], frame[headSize:])
 }
 
 // misfit tells what can be seen to be wrong without a party (P9).
@@ -43,10 +45,14 @@ func misfit(ad string, frame string, draw string) error {
 
 // planned changes nothing: the party goes on only when the frame is opened. A
 // party that nobody made has nothing to open a frame with.
-func (p *Party) planned(h head, draw string) (plan, error) {
+func (p *Party) planned(ad string, frame string, draw string) (plan, error) {
+	if err := misfit(ad, frame, draw); err != nil {
+		return plan{}, err
+	}
 	if p == nil || p.secret == "" {
 		return plan{}, ErrAuth
 	}
+	h := readHead(frame)
 	if at := p.keptAt(h); at >= 0 {
 		return p.planKept(at), nil
 	}

@@ -88,11 +88,19 @@ func getsNot(t *testing.T, p *Party, ad string, frame string, draw string, want 
 	checkStill(t, p, want, func() (string, error) { return p.Receive(ad, frame, draw) })
 }
 
-// side is a party with its twin, and the frames that are on the way to them.
+// side is a party with its twin, the frames that are on the way to them, and
+// those that they were handed.
 type side struct {
 	party  *Party
 	twin   *twin
 	coming []string
+	heard  []heard
+}
+
+// heard is a frame with what stood beside it, and what the twin made of it.
+type heard struct {
+	ad, frame, draw string
+	want            answer
 }
 
 // talk lets chance choose what two sides do, and holds each answer of a party
@@ -107,7 +115,7 @@ type talk struct {
 func newTalk(t *testing.T, seed uint64) *talk {
 	a, b := pair(t)
 	c, d := twins(t)
-	return &talk{t, rand.New(rand.NewPCG(seed, 1)), [2]*side{{a, c, nil}, {b, d, nil}}, map[error]int{}}
+	return &talk{t, rand.New(rand.NewPCG(seed, 1)), [2]*side{{party: a, twin: c}, {party: b, twin: d}}, map[error]int{}}
 }
 
 // same holds two answers against each other, and counts the error.
@@ -149,16 +157,11 @@ func (k *talk) lie(from int) {
 	other.coming = append(other.coming, me.told("", "a lie", before, number))
 }
 
-// receive takes a frame that is coming, one of the last ones if at all, and
-// leaves it there: it may be told again.
-func (k *talk) receive(to int) {
-	me := k.sides[to]
-	if len(me.coming) == 0 {
-		return
-	}
-	at := len(me.coming) - 1 - k.chance.IntN(min(len(me.coming), 12))
-	ad, draw := "", hashOf(pattern(k.chance.IntN(40)))
-	frame := me.coming[at]
+// next answers a frame that is coming, one of the last ones, and a draw; chance
+// may spoil them. The frame stays there: it may be told again.
+func (k *talk) next(me *side) (string, string) {
+	frame := me.coming[len(me.coming)-1-k.chance.IntN(min(len(me.coming), 12))]
+	draw := hashOf(pattern(k.chance.IntN(40)))
 	switch k.chance.IntN(12) {
 	case 0:
 		frame = flipped(frame, k.chance.IntN(8*len(frame)))
@@ -170,19 +173,47 @@ func (k *talk) receive(to int) {
 		frame += pattern(k.chance.IntN(80))
 	case 4:
 		draw = pattern(30 + k.chance.IntN(5))
-	case 5, 6:
+	}
+	return frame, draw
+}
+
+// hear hands some frames that are coming to a side's twin, all beside one ad.
+func (k *talk) hear(me *side, count int) []heard {
+	if len(me.coming) == 0 {
+		return nil
+	}
+	ad, first := "", len(me.heard)
+	if k.chance.IntN(6) == 0 {
 		ad = k.ad()
 	}
-	want, wanted := me.twin.receive(ad, frame, draw)
-	got, err := me.party.Receive(ad, frame, draw)
-	k.same("Receive", got, err, want, wanted)
+	for range count {
+		frame, draw := k.next(me)
+		text, err := me.twin.receive(ad, frame, draw)
+		me.heard = append(me.heard, heard{ad, frame, draw, answer{text, err}})
+	}
+	return me.heard[first:]
+}
+
+func (k *talk) receive(to int) {
+	me := k.sides[to]
+	for _, h := range k.hear(me, 1) {
+		got, err := me.party.Receive(h.ad, h.frame, h.draw)
+		k.same("Receive", got, err, h.want.text, h.want.err)
+	}
+}
+
+func (k *talk) batch(to int) {
+	me := k.sides[to]
+	if all := k.hear(me, 1+k.chance.IntN(batchBound)); len(all) > 0 {
+		checkHeard(k.t, me.party, all)
+	}
 }
 
 // copy goes on with the copy, and does something with the party that is left,
 // or the other way round.
 func (k *talk) copy(of int) {
 	me := k.sides[of]
-	left := &side{me.party.Copy(), me.twin.copied(), me.coming}
+	left := &side{party: me.party.Copy(), twin: me.twin.copied(), coming: me.coming}
 	if k.chance.IntN(2) > 0 {
 		left.party, me.party = me.party, left.party
 	}
@@ -199,14 +230,21 @@ func renumbered(frame string, before int, number int) string {
 	return string(b)
 }
 
-func (k *talk) move(lies bool) {
+func (k *talk) move(lies bool, batches bool) {
 	who := k.chance.IntN(2)
-	switch n := k.chance.IntN(20); {
-	case n < 9:
+	switch n := k.chance.IntN(21); {
+	case n < 8:
 		k.send(who)
+	case n < 9:
+		// A speech: else few chains would come to their ends.
+		for range 4 {
+			k.send(who)
+		}
 	case n < 18:
 		k.receive(who)
-	case n < 19 && lies:
+	case n < 19 && batches:
+		k.batch(who)
+	case n < 20 && lies:
 		k.lie(who)
 	default:
 		k.copy(who)
@@ -219,11 +257,12 @@ func TestP7ToP14Talks(t *testing.T) {
 	for seed := range uint64(24) {
 		k := newTalk(t, seed)
 		for range 150 {
-			k.move(seed%2 > 0)
+			k.move(seed%2 > 0, seed%4 > 1)
 		}
 		for err, n := range k.seen {
 			seen[err] += n
 		}
+		k.again()
 	}
 	for _, err := range append(allErrors(), nil) {
 		if seen[err] < 10 {

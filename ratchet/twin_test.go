@@ -14,6 +14,7 @@ const (
 	skipBound  = 10
 	keptBound  = 16
 	sendBound  = 30
+	batchBound = 8
 	frameLeast = 36 + 16
 	frameBound = 36 + 64 + 16
 )
